@@ -4,77 +4,52 @@ import (
 	"strings"
 
 	"duet/api"
+	"duet/pieces"
 	"duet/values"
 )
 
 // Parse: P7.
 func Parse(s string) (x api.Expr, f api.Fault) {
-	x, _, f = read(s, 0, true)
+	f = pieces.Read(s, " ", 0, func(r *pieces.Reader) {
+		whole := expression(r, 1)
+		r.Finish()
+		x = checked(whole)
+	})
 	return x, f
 }
 
 // Begin: P7.
 func Begin(s string, at int) (x api.Expr, end int, f api.Fault) {
-	return read(s, min(max(at, 0), len(s)), false)
+	f = pieces.Read(s, " ", at, func(r *pieces.Reader) {
+		x, end = checked(expression(r, 1)), r.At()
+	})
+	return x, end, f
 }
 
-// read is where a reading begins: a fault that is thrown at any of its pieces comes down here.
-func read(s string, at int, whole bool) (x api.Expr, end int, f api.Fault) {
-	defer func() {
-		if thrown := recover(); thrown != nil {
-			x, end, f = api.Expr{}, 0, thrown.(api.Fault)
-		}
-	}()
-	if len(s) > api.MaxSource {
-		panic(api.Fault{Code: api.ErrLarge, At: 0})
-	}
-	r := reader{text: s, at: at}
-	r.pass(0)
-	x = r.expression(1)
-	if whole && r.rest() != "" {
-		panic(r.fault(api.ErrSyntax))
-	}
-	// Of what has been read Check can say only that it has too many parts.
+// checked throws what is to be told when all has been read: there can be too many parts, and nothing else.
+func checked(x api.Expr) api.Expr {
 	if e := Check(x); e != api.OK {
 		panic(api.Fault{Code: e, At: 0})
 	}
-	return x, r.at, api.Fault{}
+	return x
 }
-
-// reader of a text: at is where the next piece begins, behind blanks.
-type reader struct {
-	text string
-	at   int
-}
-
-// rest begins with the next piece.
-func (r *reader) rest() string { return r.text[r.at:] }
-
-// pass goes over a piece of so many bytes, and the blanks behind it.
-func (r *reader) pass(size int) {
-	r.at += size
-	r.at += len(leading(r.rest(), isBlank))
-}
-
-// fault at the next piece: what can't go on must not have passed it.
-func (r *reader) fault(code api.Errno) api.Fault { return api.Fault{Code: code, At: r.at} }
 
 // expression takes operators of two of that level at least: the others belong to what is around it.
-func (r *reader) expression(least int) api.Expr {
-	x := r.operand()
+func expression(r *pieces.Reader, least int) api.Expr {
+	x := operand(r)
 	for {
-		op := operatorAhead(r.rest())
+		op := operatorAhead(r.Rest())
 		if level(op) < least {
 			return x
 		}
-		r.pass(len(op))
-		x = operation(op, x, r.expression(level(op)+1))
+		r.Pass(len(op))
+		x = operation(op, x, expression(r, level(op)+1))
 	}
 }
 
 // operatorAhead is the operator of two with which s begins, or the empty text.
 func operatorAhead(s string) string {
-	switch leading(s, isLetter) {
+	switch pieces.Leading(s, pieces.Letters) {
 	case "or":
 		return "or"
 	case "and":
@@ -90,59 +65,56 @@ func operatorAhead(s string) string {
 }
 
 // operand is all that may stand beside an operator of two without brackets.
-func (r *reader) operand() api.Expr {
-	s := r.rest()
+func operand(r *pieces.Reader) api.Expr {
+	s := r.Rest()
 	switch {
 	case strings.HasPrefix(s, "("):
-		return r.brackets()
+		return brackets(r)
 	case strings.HasPrefix(s, "#"):
-		return r.ofOne("#", 1)
+		return ofOne(r, "#", 1)
 	case strings.HasPrefix(s, `"`):
-		return r.value(quotedAhead(s))
+		return value(r, quotedAhead(s))
 	case numberAhead(s) != "":
-		return r.value(numberAhead(s))
+		return value(r, numberAhead(s))
 	case strings.HasPrefix(s, "-"):
-		return r.ofOne("neg", 1)
+		return ofOne(r, "neg", 1)
 	}
-	return r.word(leading(s, isLetter))
+	return word(r, r.Word())
 }
 
-func (r *reader) brackets() api.Expr {
-	r.pass(1)
-	x := r.expression(1)
-	if !strings.HasPrefix(r.rest(), ")") {
-		panic(r.fault(api.ErrSyntax))
-	}
-	r.pass(1)
+func brackets(r *pieces.Reader) api.Expr {
+	r.Need("(")
+	x := expression(r, 1)
+	r.Need(")")
 	return x
 }
 
 // ofOne reads an operator of one that is written with so many bytes.
-func (r *reader) ofOne(op string, size int) api.Expr {
-	r.pass(size)
-	return operation(op, r.operand())
+func ofOne(r *pieces.Reader, op string, size int) api.Expr {
+	r.Pass(size)
+	return operation(op, operand(r))
 }
 
-func (r *reader) value(piece string) api.Expr {
+func value(r *pieces.Reader, piece string) api.Expr {
 	v, e := values.Read(piece)
 	if e != api.OK {
-		panic(r.fault(e))
+		panic(r.Fault(e))
 	}
-	r.pass(len(piece))
+	r.Pass(len(piece))
 	return literal(v)
 }
 
 // word also stands where there are no letters: the empty word is no name.
-func (r *reader) word(piece string) api.Expr {
+func word(r *pieces.Reader, piece string) api.Expr {
 	switch {
 	case piece == "true" || piece == "false":
-		return r.value(piece)
+		return value(r, piece)
 	case piece == "not":
-		return r.ofOne("not", len(piece))
+		return ofOne(r, "not", len(piece))
 	case !IsName(piece):
-		panic(r.fault(api.ErrSyntax))
+		panic(r.Fault(api.ErrSyntax))
 	}
-	r.pass(len(piece))
+	r.Pass(len(piece))
 	return api.Expr{Kind: api.Name, Name: strings.Clone(piece)}
 }
 
@@ -152,7 +124,7 @@ func numberAhead(s string) string {
 	if strings.HasPrefix(s, "-") {
 		sign = 1
 	}
-	digits := len(leading(s[sign:], isDigit))
+	digits := len(pieces.Leading(s[sign:], pieces.Digits))
 	if digits == 0 {
 		return ""
 	}
@@ -171,19 +143,3 @@ func quotedAhead(s string) string {
 	}
 	return s
 }
-
-// leading is what s has of such bytes ahead of any other.
-func leading(s string, such func(byte) bool) string {
-	for i := range len(s) {
-		if !such(s[i]) {
-			return s[:i]
-		}
-	}
-	return s
-}
-
-func isBlank(c byte) bool { return c == ' ' }
-
-func isDigit(c byte) bool { return '0' <= c && c <= '9' }
-
-func isLetter(c byte) bool { return 'a' <= c && c <= 'z' }

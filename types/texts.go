@@ -1,0 +1,178 @@
+package types
+
+import (
+	"slices"
+	"strings"
+
+	"duet/api"
+	"duet/pieces"
+)
+
+// Write: P12.
+func Write(t api.Type) (string, api.Errno) {
+	if e := Check(t); e != api.OK {
+		return "", e
+	}
+	var out strings.Builder
+	write(&out, t)
+	return out.String(), api.OK
+}
+
+// Parse: P12.
+func Parse(s string) (t api.Type, f api.Fault) {
+	f = pieces.Read(s, " ", 0, func(r *pieces.Reader) {
+		whole := read(r)
+		r.Finish()
+		t = checked(whole)
+	})
+	return t, f
+}
+
+// Begin: P12.
+func Begin(s string, at int) (t api.Type, end int, f api.Fault) {
+	f = pieces.Read(s, " ", at, func(r *pieces.Reader) {
+		t, end = checked(read(r)), r.At()
+	})
+	return t, end, f
+}
+
+func write(out *strings.Builder, t api.Type) {
+	switch t.Kind {
+	case api.End:
+		out.WriteString("end")
+	case api.Var:
+		out.WriteString(t.Name)
+	case api.Rec:
+		out.WriteString("rec " + t.Name + ".")
+		write(out, t.Kids[0])
+	case api.Send, api.Recv:
+		out.WriteString(sign(t.Kind) + sortWord(t.Sort) + ".")
+		write(out, t.Kids[0])
+	case api.Give, api.Take:
+		out.WriteString(sign(t.Kind) + "{")
+		write(out, t.Kids[0])
+		out.WriteString("}.")
+		write(out, t.Kids[1])
+	case api.Pick, api.Offer:
+		writeChoice(out, t)
+	}
+}
+
+func writeChoice(out *strings.Builder, t api.Type) {
+	between := sign(t.Kind) + "{"
+	for i, label := range t.Labels {
+		out.WriteString(between + label + ":")
+		write(out, t.Kids[i])
+		between = ","
+	}
+	out.WriteString("}")
+}
+
+// sign is that with which a kind begins.
+func sign(kind int) string {
+	switch kind {
+	case api.Send, api.Give:
+		return "!"
+	case api.Recv, api.Take:
+		return "?"
+	case api.Pick:
+		return "+"
+	case api.Offer:
+		return "&"
+	}
+	return ""
+}
+
+// checked throws what is to be told when all has been read.
+func checked(t api.Type) api.Type {
+	if e := Check(t); e != api.OK {
+		panic(api.Fault{Code: e, At: 0})
+	}
+	return t
+}
+
+func read(r *pieces.Reader) api.Type {
+	switch {
+	case r.Skip("!"):
+		return readMessage(r, api.Send, api.Give)
+	case r.Skip("?"):
+		return readMessage(r, api.Recv, api.Take)
+	case r.Skip("+"):
+		return readChoice(r, api.Pick)
+	case r.Skip("&"):
+		return readChoice(r, api.Offer)
+	}
+	return readWord(r)
+}
+
+// readMessage has passed the sign: what comes next tells whether it is one of a value or of an end.
+func readMessage(r *pieces.Reader, ofValue, ofEnd int) api.Type {
+	if r.Skip("{") {
+		carried := read(r)
+		r.Need("}")
+		r.Need(".")
+		return api.Type{Kind: ofEnd, Kids: []api.Type{carried, read(r)}}
+	}
+	sort := readSort(r)
+	r.Need(".")
+	return api.Type{Kind: ofValue, Sort: sort, Kids: []api.Type{read(r)}}
+}
+
+// readSort throws a fault where no sort stands.
+func readSort(r *pieces.Reader) int {
+	for _, sort := range [...]int{api.Int, api.Bool, api.Text} {
+		if word := r.Word(); word == sortWord(sort) {
+			r.Pass(len(word))
+			return sort
+		}
+	}
+	panic(r.Fault(api.ErrSyntax))
+}
+
+func readChoice(r *pieces.Reader, kind int) api.Type {
+	t := api.Type{Kind: kind}
+	r.Need("{")
+	for {
+		t.Labels = append(t.Labels, readLabel(r, t.Labels))
+		r.Need(":")
+		t.Kids = append(t.Kids, read(r))
+		if r.Skip("}") {
+			return t
+		}
+		r.Need(",")
+	}
+}
+
+// readLabel throws a fault where no label stands that may follow those ahead.
+func readLabel(r *pieces.Reader, ahead []string) string {
+	label := strings.Clone(r.Word())
+	if !areLabels(append(slices.Clone(ahead), label)) {
+		panic(r.Fault(api.ErrSyntax))
+	}
+	r.Pass(len(label))
+	return label
+}
+
+func readWord(r *pieces.Reader) api.Type {
+	switch r.Word() {
+	case "end":
+		r.Pass(len("end"))
+		return api.Type{Kind: api.End}
+	case "rec":
+		r.Pass(len("rec"))
+		name := readVar(r)
+		r.Need(".")
+		return api.Type{Kind: api.Rec, Name: name, Kids: []api.Type{read(r)}}
+	}
+	return api.Type{Kind: api.Var, Name: readVar(r)}
+}
+
+// readVar throws a fault also where no letters stand: the empty word is no name.
+func readVar(r *pieces.Reader) string {
+	name := strings.Clone(r.Word())
+	if !IsVar(name) {
+		panic(r.Fault(api.ErrSyntax))
+	}
+	r.Pass(len(name))
+	return name
+}
