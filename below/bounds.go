@@ -41,10 +41,6 @@ func bound(a, b []api.Node, meet bool) ([]api.Node, api.Errno) {
 
 // number of a place's draft, which is made later if it is new.
 func (d *drafting) number(p place) int {
-	// What stands alone is what it is, of Join and of Meet.
-	if p.a == none || p.b == none {
-		p.turned = false
-	}
 	number, known := d.numbers[p]
 	if !known {
 		number = len(d.places)
@@ -57,9 +53,9 @@ func (d *drafting) number(p place) int {
 func (d *drafting) draftAt(p place) draft {
 	switch {
 	case p.b == none:
-		return d.alone(d.a[p.a], func(to int) place { return place{a: to, b: none} })
+		return d.alone(d.a[p.a], p.turned, func(to place) place { return place{to.a, none, to.turned} })
 	case p.a == none:
-		return d.alone(d.b[p.b], func(to int) place { return place{a: none, b: to} })
+		return d.alone(d.b[p.b], p.turned, func(to place) place { return place{none, to.b, to.turned} })
 	}
 	m, n := d.a[p.a], d.b[p.b]
 	switch {
@@ -71,10 +67,11 @@ func (d *drafting) draftAt(p place) draft {
 	return d.withBoth(m, n, p.turned)
 }
 
-func (d *drafting) alone(n api.Node, at func(to int) place) draft {
+// alone is what it is, of Join and of Meet, but there is one draft for each: both count where it is told whether there are too many.
+func (d *drafting) alone(n api.Node, turned bool, ofOne func(to place) place) draft {
 	out := draft{Node: api.Node{Kind: n.Kind, Sort: n.Sort, Labels: n.Labels}}
-	for _, to := range n.To {
-		out.To = append(out.To, d.number(at(to)))
+	for _, next := range stepsFrom(n, n, turned) {
+		out.To = append(out.To, d.number(ofOne(next.to)))
 	}
 	return out
 }

@@ -123,15 +123,15 @@ type spot struct {
 func partsOf(a, b []api.Node, at spot) (labels []string, parts []spot, wide bool) {
 	if at.i < 0 {
 		n := b[at.j]
-		for _, to := range n.To {
-			parts = append(parts, spot{-1, to, false})
+		for k, to := range n.To {
+			parts = append(parts, spot{-1, to, at.meet != (k == 0 && n.Kind == api.Give)})
 		}
 		return n.Labels, parts, true
 	}
 	if at.j < 0 {
 		n := a[at.i]
-		for _, to := range n.To {
-			parts = append(parts, spot{to, -1, false})
+		for k, to := range n.To {
+			parts = append(parts, spot{to, -1, at.meet != (k == 0 && n.Kind == api.Give)})
 		}
 		return n.Labels, parts, true
 	}
@@ -149,9 +149,9 @@ func partsOf(a, b []api.Node, at spot) (labels []string, parts []spot, wide bool
 		case i >= 0 && j >= 0:
 			labels, parts = append(labels, label), append(parts, spot{m.To[i], n.To[j], at.meet})
 		case i >= 0 && wide:
-			labels, parts = append(labels, label), append(parts, spot{m.To[i], -1, false})
+			labels, parts = append(labels, label), append(parts, spot{m.To[i], -1, at.meet})
 		case j >= 0 && wide:
-			labels, parts = append(labels, label), append(parts, spot{-1, n.To[j], false})
+			labels, parts = append(labels, label), append(parts, spot{-1, n.To[j], at.meet})
 		}
 	}
 	return labels, parts, wide
@@ -283,6 +283,12 @@ func offers(nodes int, other string) string {
 	return "rec t." + strings.Repeat("&{a:", nodes-1) + "&{a:t," + other + ":end}" + strings.Repeat("}", nodes-1)
 }
 
+// ints is the beginning of a type that sends so many.
+func ints(nodes int) string { return strings.Repeat("!int.", nodes) }
+
+// carrier is a ring of a Give or a Take that carries the ring itself, and so many Sends.
+func carrier(sign string, sends int) string { return "rec x." + sign + "{x}." + ints(sends) + "x" }
+
 func TestP20TwoHundredNodesAtMost(t *testing.T) {
 	for _, x := range []struct {
 		name, s, t string
@@ -295,8 +301,13 @@ func TestP20TwoHundredNodesAtMost(t *testing.T) {
 		// What is carried has nodes of its own: of 7 and 13 nodes there are 91 pairs of each kind.
 		{"Join", "!{" + offers(7, "b") + "}." + offers(7, "b"), "!{" + offers(13, "c") + "}." + offers(13, "c"), 1 + 91 + 91 + 2}, {"Join", "?{" + offers(7, "b") + "}." + offers(7, "b"), "?{" + offers(13, "c") + "}." + offers(13, "c"), 1 + 91 + 2},
 		{"Join", "!{" + offers(9, "b") + "}." + offers(9, "b"), "!{" + offers(11, "c") + "}." + offers(11, "c"), 1 + 99 + 99 + 2}, {"Meet", "!{" + offers(9, "b") + "}." + offers(9, "b"), "!{" + offers(11, "c") + "}." + offers(11, "c"), 1 + 99 + 99 + 2}, {"Join", "!int.!{" + offers(6, "b") + "}." + offers(6, "b"), "!int.!{" + offers(16, "c") + "}." + offers(16, "c"), 2 + 48 + 48 + 2},
-		// What stands alone is one, also where it is come to from a Join and from a Meet.
-		{"Join", "!int.!{+{b:end}}." + offers(13, "b"), "!int.!{+{c:end}}." + offers(15, "c"), 3 + 195 + 2}, {"Join", "!int.!int.!{+{b:end}}." + offers(13, "b"), "!int.!int.!{+{c:end}}." + offers(15, "c"), 4 + 195 + 2},
+		// What stands alone is one of a Join, and one more of a Meet: both Ends of the rings, and of what is carried.
+		{"Join", ints(4) + "!{+{b:end}}." + offers(10, "b"), ints(4) + "!{+{c:end}}." + offers(19, "c"), 6 + 190 + 4}, {"Join", ints(5) + "!{+{b:end}}." + offers(10, "b"), ints(5) + "!{+{c:end}}." + offers(19, "c"), 7 + 190 + 4}, {"Meet", ints(4) + "!{" + offers(10, "b") + "}.+{b:end}", ints(4) + "!{" + offers(19, "c") + "}.+{c:end}", 6 + 190 + 4}, {"Meet", ints(5) + "!{" + offers(10, "b") + "}.+{b:end}", ints(5) + "!{" + offers(19, "c") + "}.+{c:end}", 7 + 190 + 4},
+		// It is the same one where they have changed places twice, or never.
+		{"Join", ints(4) + "!{!{&{b:end}}.end}." + offers(10, "b"), ints(4) + "!{!{&{c:end}}.end}." + offers(19, "c"), 8 + 190 + 2}, {"Join", ints(5) + "!{!{&{b:end}}.end}." + offers(10, "b"), ints(5) + "!{!{&{c:end}}.end}." + offers(19, "c"), 9 + 190 + 2}, {"Join", ints(1) + "?{&{b:end}}." + offers(13, "b"), ints(1) + "?{&{c:end}}." + offers(15, "c"), 3 + 195 + 2},
+		// They change places also within what stands alone, of Give but not of Take.
+		{"Join", ints(1) + "&{a:" + carrier("!", 49) + "}", ints(1) + "&{b:" + carrier("!", 48) + "}", 2 + 2*50 + 2*49}, {"Join", ints(1) + "&{a:" + carrier("!", 49) + "}", ints(1) + "&{b:" + carrier("!", 48) + ",c:end}", 2 + 2*50 + 2*49 + 1},
+		{"Join", "&{a:" + carrier("!", 49) + "}", "&{b:" + carrier("?", 53) + "}", 1 + 2*50 + 54}, {"Meet", "+{a:" + carrier("?", 49) + "}", "+{b:" + carrier("!", 53) + "}", 1 + 50 + 2*54},
 	} {
 		a, e := graph.Of(parsed(t, x.s))
 		b, f := graph.Of(parsed(t, x.t))
