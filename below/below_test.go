@@ -367,6 +367,34 @@ func TestP18Graphs(t *testing.T) {
 	}
 }
 
+func TestNodes(t *testing.T) {
+	for _, pair := range mixed(600, 5) {
+		a, b := pair[0], pair[1]
+		all := distances(together(a, b))
+		for i := range a {
+			for j := range b {
+				if ok, e := below.Nodes(a, i, b, j); e != api.OK || ok != (all[i][len(a)+j] >= far) {
+					t.Fatalf("Nodes(%v, %d, %v, %d) = %v, %d", a, i, b, j, ok, e)
+				}
+			}
+		}
+	}
+	for _, x := range []struct {
+		a    []api.Node
+		m    int
+		b    []api.Node
+		n    int
+		want api.Errno
+	}{
+		{ring(3), -1, ring(3), 0, api.ErrArg}, {ring(3), 3, ring(3), 0, api.ErrArg}, {ring(3), 0, ring(3), -1, api.ErrArg}, {ring(3), 0, ring(3), 3, api.ErrArg}, {ring(3), 3, ring(4), 3, api.ErrArg}, {ring(3), math.MinInt, ring(3), math.MaxInt, api.ErrArg},
+		{ring(201), 201, ring(3), 0, api.ErrLarge}, {ring(3), -1, ring(201), 0, api.ErrLarge}, {nil, 0, ring(201), 0, api.ErrArg},
+	} {
+		if ok, e := below.Nodes(x.a, x.m, x.b, x.n); ok || e != x.want {
+			t.Errorf("%d and %d of graphs of %d and %d: %v, %d", x.m, x.n, len(x.a), len(x.b), ok, e)
+		}
+	}
+}
+
 func TestCallsSayWhatTypesCheckSays(t *testing.T) {
 	fine := api.Type{Kind: api.End}
 	loop := api.Type{Kind: api.Rec, Name: "t", Kids: []api.Type{{Kind: api.Var, Name: "t"}}}

@@ -4,6 +4,7 @@ import (
 	"slices"
 
 	"duet/api"
+	"duet/ways"
 )
 
 // Steps that are no labels.
@@ -42,55 +43,20 @@ func stepsFrom(m, n api.Node, turned bool) []step {
 	return steps
 }
 
-// arrival at a place, by the last step of a way.
-type arrival struct {
-	step
-	from int // the number of the arrival that the step went from
-}
-
-// search comes to each place once, on the first of the shortest ways: what is come to first is gone on from first.
-type search struct {
-	a, b     []api.Node
-	known    []bool // by numbers of places
-	arrivals []arrival
-}
-
-// firstFailing is the way to where it fails first, by what stands there itself, that a is below b. If there is no such place it does not fail: what is asked of one is asked of all that lie behind it, and of nothing else.
-func firstFailing(a, b []api.Node) (way []string, fails bool) {
-	s := search{a: a, b: b, known: make([]bool, 2*len(a)*len(b))}
-	s.arrive(step{}, 0)
-	for k := 0; k < len(s.arrivals); k++ {
-		at := s.arrivals[k].to
+// firstFailing is the way from a place to where it fails first, by what stands there itself, that the one node is below the other. If there is no such place it does not fail: what is asked of one is asked of all that lie behind it, and of nothing else.
+func firstFailing(a, b []api.Node, from place) (way []string, fails bool) {
+	s := ways.From(from)
+	for k := 0; k < s.Count(); k++ {
+		at := s.Place(k)
 		m, n := a[at.a], b[at.b]
 		if at.turned && failsItself(n, m) || !at.turned && failsItself(m, n) {
-			return s.wayTo(k), true
+			return s.To(k), true
 		}
 		for _, next := range stepsFrom(m, n, at.turned) {
-			s.arrive(next, k)
+			s.Step(k, next.word, next.to)
 		}
 	}
 	return nil, false
-}
-
-func (s *search) arrive(by step, from int) {
-	number := (by.to.a*len(s.b) + by.to.b) * 2
-	if by.to.turned {
-		number++
-	}
-	if s.known[number] {
-		return
-	}
-	s.known[number] = true
-	s.arrivals = append(s.arrivals, arrival{by, from})
-}
-
-func (s *search) wayTo(k int) []string {
-	var way []string
-	for ; k > 0; k = s.arrivals[k].from {
-		way = append(way, s.arrivals[k].word)
-	}
-	slices.Reverse(way)
-	return way
 }
 
 // failsItself does not look at what lies behind.
