@@ -38,7 +38,7 @@ func talk(a, b []api.Node) outcome {
 			return outcome{stuck: true, way: s.To(k)}
 		}
 		m, n := a[at.a], b[at.b]
-		// A least graph has one End at most: both are come to just once.
+		// A least graph has one End at most: there is one such place, which is come to once.
 		if m.Kind == api.End {
 			out = outcome{ended: true, way: s.To(k)}
 		}
