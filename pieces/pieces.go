@@ -38,6 +38,9 @@ func Read(text, blanks string, at int, reading func(*Reader)) (f api.Fault) {
 	return api.Fault{}
 }
 
+// Text is all of it, for readings that begin at a byte of it by themselves.
+func (r *Reader) Text() string { return r.text }
+
 // At is the byte at which the next piece begins.
 func (r *Reader) At() int { return r.at }
 
@@ -70,6 +73,16 @@ func (r *Reader) Need(sign string) {
 	if !r.Skip(sign) {
 		panic(r.Fault(api.ErrSyntax))
 	}
+}
+
+// Take passes a word that must be such a one, and answers a copy of it. (Where no letters stand it is asked of the empty word.)
+func (r *Reader) Take(is func(string) bool) string {
+	word := r.Word()
+	if !is(word) {
+		panic(r.Fault(api.ErrSyntax))
+	}
+	r.Pass(len(word))
+	return strings.Clone(word)
 }
 
 // Finish is for texts behind which nothing may stand.

@@ -48,6 +48,7 @@ func TestReadOfTooLongTexts(t *testing.T) {
 }
 
 func TestReadCatchesWhatIsThrown(t *testing.T) {
+	is := func(want string) func(string) bool { return func(word string) bool { return word == want } }
 	for _, x := range []struct {
 		text    string
 		reading func(*pieces.Reader)
@@ -58,6 +59,14 @@ func TestReadCatchesWhatIsThrown(t *testing.T) {
 		{"ab ", func(r *pieces.Reader) { r.Pass(len(r.Word())); r.Need(":") }, api.Fault{Code: api.ErrSyntax, At: 3}},
 		{"ab cd", func(r *pieces.Reader) { r.Pass(len(r.Word())); r.Finish() }, api.Fault{Code: api.ErrSyntax, At: 3}},
 		{" ab", func(r *pieces.Reader) { panic(r.Fault(api.ErrLarge)) }, api.Fault{Code: api.ErrLarge, At: 1}},
+		{" ab cd", func(r *pieces.Reader) {
+			if r.Text() != " ab cd" || r.Take(is("ab")) != "ab" || r.At() != 4 || r.Take(is("cd")) != "cd" || r.Text() != " ab cd" {
+				t.Error("Take")
+			}
+		}, api.Fault{}},
+		{"ab cd", func(r *pieces.Reader) { r.Take(is("ab")); r.Take(is("c")) }, api.Fault{Code: api.ErrSyntax, At: 3}},
+		{"ab :", func(r *pieces.Reader) { r.Take(is("ab")); r.Take(is(":")) }, api.Fault{Code: api.ErrSyntax, At: 3}},
+		{"abc", func(r *pieces.Reader) { r.Take(is("ab")) }, api.Fault{Code: api.ErrSyntax, At: 0}},
 		{" ++ +", func(r *pieces.Reader) {
 			if r.Skip("-") || !r.Skip("+") || !r.Skip("+") || r.At() != 4 || !r.Skip("+") || r.Skip("+") || r.Word() != "" {
 				t.Error("Skip")

@@ -1,11 +1,11 @@
 package types
 
 import (
-	"slices"
 	"strings"
 
 	"duet/api"
 	"duet/pieces"
+	"duet/words"
 )
 
 // Write: P12.
@@ -46,7 +46,7 @@ func write(out *strings.Builder, t api.Type) {
 		out.WriteString("rec " + t.Name + ".")
 		write(out, t.Kids[0])
 	case api.Send, api.Recv:
-		out.WriteString(sign(t.Kind) + sortWord(t.Sort) + ".")
+		out.WriteString(sign(t.Kind) + words.Sort(t.Sort) + ".")
 		write(out, t.Kids[0])
 	case api.Give, api.Take:
 		out.WriteString(sign(t.Kind) + "{")
@@ -113,27 +113,16 @@ func readMessage(r *pieces.Reader, ofValue, ofEnd int) api.Type {
 		r.Need(".")
 		return api.Type{Kind: ofEnd, Kids: []api.Type{carried, read(r)}}
 	}
-	sort := readSort(r)
+	sort := words.ReadSort(r)
 	r.Need(".")
 	return api.Type{Kind: ofValue, Sort: sort, Kids: []api.Type{read(r)}}
-}
-
-// readSort throws a fault where no sort stands.
-func readSort(r *pieces.Reader) int {
-	for _, sort := range [...]int{api.Int, api.Bool, api.Text} {
-		if word := r.Word(); word == sortWord(sort) {
-			r.Pass(len(word))
-			return sort
-		}
-	}
-	panic(r.Fault(api.ErrSyntax))
 }
 
 func readChoice(r *pieces.Reader, kind int) api.Type {
 	t := api.Type{Kind: kind}
 	r.Need("{")
 	for {
-		t.Labels = append(t.Labels, readLabel(r, t.Labels))
+		t.Labels = append(t.Labels, words.ReadLabel(r, t.Labels, words.AreLabels))
 		r.Need(":")
 		t.Kids = append(t.Kids, read(r))
 		if r.Skip("}") {
@@ -143,16 +132,6 @@ func readChoice(r *pieces.Reader, kind int) api.Type {
 	}
 }
 
-// readLabel throws a fault where no label stands that may follow those ahead.
-func readLabel(r *pieces.Reader, ahead []string) string {
-	label := strings.Clone(r.Word())
-	if !areLabels(append(slices.Clone(ahead), label)) {
-		panic(r.Fault(api.ErrSyntax))
-	}
-	r.Pass(len(label))
-	return label
-}
-
 func readWord(r *pieces.Reader) api.Type {
 	switch r.Word() {
 	case "end":
@@ -160,19 +139,9 @@ func readWord(r *pieces.Reader) api.Type {
 		return api.Type{Kind: api.End}
 	case "rec":
 		r.Pass(len("rec"))
-		name := readVar(r)
+		name := r.Take(IsVar)
 		r.Need(".")
 		return api.Type{Kind: api.Rec, Name: name, Kids: []api.Type{read(r)}}
 	}
-	return api.Type{Kind: api.Var, Name: readVar(r)}
-}
-
-// readVar throws a fault also where no letters stand: the empty word is no name.
-func readVar(r *pieces.Reader) string {
-	name := strings.Clone(r.Word())
-	if !IsVar(name) {
-		panic(r.Fault(api.ErrSyntax))
-	}
-	r.Pass(len(name))
-	return name
+	return api.Type{Kind: api.Var, Name: r.Take(IsVar)}
 }

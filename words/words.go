@@ -1,0 +1,54 @@
+// Package words: sorts and labels as words of texts. It has no promises of its own: the packages whose texts have such words share it.
+package words
+
+import (
+	"slices"
+
+	"duet/api"
+	"duet/exprs"
+	"duet/pieces"
+)
+
+// Sort is how a sort is written; the empty text of what is none.
+func Sort(sort int) string {
+	switch sort {
+	case api.Int:
+		return "int"
+	case api.Bool:
+		return "bool"
+	case api.Text:
+		return "text"
+	}
+	return ""
+}
+
+// ReadSort throws a fault where no sort stands.
+func ReadSort(r *pieces.Reader) int {
+	for _, sort := range [...]int{api.Int, api.Bool, api.Text} {
+		if word := r.Word(); word == Sort(sort) {
+			r.Pass(len(word))
+			return sort
+		}
+	}
+	panic(r.Fault(api.ErrSyntax))
+}
+
+// AreLabels says whether these are labels of one choice: 1 to 6 names, rising.
+func AreLabels(labels []string) bool {
+	return 1 <= len(labels) && len(labels) <= api.MaxLabels && Rise(labels)
+}
+
+// Rise says whether these are names, each above the one ahead, however many they are.
+func Rise(labels []string) bool {
+	for i, label := range labels {
+		if !exprs.IsName(label) || i > 0 && label <= labels[i-1] {
+			return false
+		}
+	}
+	return true
+}
+
+// ReadLabel throws a fault where no label stands with which those ahead are still what they may be.
+func ReadLabel(r *pieces.Reader, ahead []string, may func([]string) bool) string {
+	return r.Take(func(label string) bool { return may(append(slices.Clone(ahead), label)) })
+}
