@@ -1,0 +1,92 @@
+package steps
+
+import (
+	"cmp"
+	"slices"
+
+	"duet/api"
+)
+
+// run of a program that check.Check has passed, as far as it has come.
+type run struct {
+	defs   []api.Def
+	all    []*process // in the order in which they began
+	movers []*process // in that order, those whose moves can be made
+	steps  int
+}
+
+func begun(defs []api.Def) *run {
+	first := &process{at: &defs[0].Body, ends: map[string]end{}}
+	r := &run{defs: defs, all: []*process{first}}
+	r.settle(first)
+	return r
+}
+
+// move makes the k-th of the moves that can be made.
+func (r *run) move(k int) {
+	p := r.movers[k]
+	r.movers = slices.Delete(r.movers, k, k+1)
+	switch {
+	case goesOut(p.at.Kind):
+		r.moveBoth(p, p.partner())
+	case p.at.Kind == api.Spawn:
+		r.moveSpawn(p)
+	default:
+		r.steps++
+		r.goOn(p)
+		r.settle(p)
+	}
+}
+
+func (r *run) moveBoth(p, q *process) {
+	r.steps += 2
+	p.handOver(q)
+	r.settle(p)
+	r.settle(q)
+}
+
+func (r *run) moveSpawn(p *process) {
+	r.steps++
+	child := p.spawn()
+	child.number = len(r.all)
+	r.all = append(r.all, child)
+	r.settle(p)
+	r.settle(child)
+}
+
+// goOn does what a process does alone, and by which no other one begins.
+func (r *run) goOn(p *process) {
+	at := p.at
+	switch at.Kind {
+	case api.Stop:
+		p.at = nil
+	case api.PEnd:
+		p.lose(at.Chan)
+		p.at = next(at)
+	case api.Let:
+		p.know(at.Name, p.value(at.Expr))
+		p.at = next(at)
+	case api.Print:
+		p.lines = append(p.lines, written(p.value(at.Expr)))
+		p.at = next(at)
+	case api.If:
+		p.at = &at.Kids[1-p.value(at.Expr).N]
+	case api.Call:
+		k := slices.IndexFunc(r.defs, func(d api.Def) bool { return d.Name == at.Name })
+		p.call(&r.defs[k])
+	}
+}
+
+// settle looks at where a process has come to. Only its own move may be new, or, if something comes in to it there, that of the one at the other end.
+func (r *run) settle(p *process) {
+	if p.at == nil {
+		return
+	}
+	if comesIn(p.at.Kind) {
+		p = p.partner()
+	}
+	place, known := slices.BinarySearchFunc(r.movers, p.number, func(m *process, number int) int { return cmp.Compare(m.number, number) })
+	if !known && p.canMove() {
+		r.movers = slices.Insert(r.movers, place, p)
+	}
+}
