@@ -5,6 +5,7 @@ import (
 	"slices"
 
 	"duet/api"
+	"duet/lives"
 )
 
 // run of a program that check.Check has passed, as far as it has come.
@@ -16,7 +17,7 @@ type run struct {
 }
 
 func begun(defs []api.Def) *run {
-	first := &process{at: &defs[0].Body, ends: map[string]end{}}
+	first := &process{Life: lives.First[end](defs)}
 	r := &run{defs: defs, all: []*process{first}}
 	r.settle(first)
 	return r
@@ -27,13 +28,13 @@ func (r *run) move(k int) {
 	p := r.movers[k]
 	r.movers = slices.Delete(r.movers, k, k+1)
 	switch {
-	case goesOut(p.at.Kind):
+	case goesOut(p.At.Kind):
 		r.moveBoth(p, p.partner())
-	case p.at.Kind == api.Spawn:
+	case p.At.Kind == api.Spawn:
 		r.moveSpawn(p)
 	default:
 		r.steps++
-		r.goOn(p)
+		p.Alone(r.defs, p.say)
 		r.settle(p)
 	}
 }
@@ -54,35 +55,12 @@ func (r *run) moveSpawn(p *process) {
 	r.settle(child)
 }
 
-// goOn does what a process does alone, and by which no other one begins.
-func (r *run) goOn(p *process) {
-	at := p.at
-	switch at.Kind {
-	case api.Stop:
-		p.at = nil
-	case api.PEnd:
-		p.lose(at.Chan)
-		p.at = next(at)
-	case api.Let:
-		p.know(at.Name, p.value(at.Expr))
-		p.at = next(at)
-	case api.Print:
-		p.lines = append(p.lines, written(p.value(at.Expr)))
-		p.at = next(at)
-	case api.If:
-		p.at = &at.Kids[1-p.value(at.Expr).N]
-	case api.Call:
-		k := slices.IndexFunc(r.defs, func(d api.Def) bool { return d.Name == at.Name })
-		p.call(&r.defs[k])
-	}
-}
-
 // settle looks at where a process has come to. Only its own move may be new, or, if something comes in to it there, that of the one at the other end.
 func (r *run) settle(p *process) {
-	if p.at == nil {
+	if p.At == nil {
 		return
 	}
-	if comesIn(p.at.Kind) {
+	if comesIn(p.At.Kind) {
 		p = p.partner()
 	}
 	place, known := slices.BinarySearchFunc(r.movers, p.number, func(m *process, number int) int { return cmp.Compare(m.number, number) })

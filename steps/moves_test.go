@@ -14,10 +14,10 @@ import (
 func looked(r *run) []*process {
 	var moves []*process
 	for _, p := range r.all {
-		if p.at == nil {
+		if p.At == nil {
 			continue
 		}
-		switch p.at.Kind {
+		switch p.At.Kind {
 		case api.PRecv, api.PTake, api.PCase:
 		case api.PSend, api.PGive, api.PPick:
 			if isAwaited(r, p) {
@@ -32,11 +32,11 @@ func looked(r *run) []*process {
 
 // isAwaited says whether who has the other end waits for what p lets out.
 func isAwaited(r *run, p *process) bool {
-	x := p.ends[p.at.Chan]
+	x := p.Ends[p.At.Chan]
 	for _, q := range r.all {
-		for name, y := range q.ends {
-			if x.of == y.of && x.side != y.side && q.at != nil && q.at.Chan == name {
-				return q.at.Kind == p.at.Kind+1
+		for name, y := range q.Ends {
+			if x.of == y.of && x.side != y.side && q.At != nil && q.At.Chan == name {
+				return q.At.Kind == p.At.Kind+1
 			}
 		}
 	}
@@ -60,7 +60,7 @@ func TestP29MovesOfMany(t *testing.T) {
 			most = max(most, len(moves))
 			before, k := x.steps, r.Intn(len(moves))
 			needed := 1
-			if goesOut(moves[k].at.Kind) {
+			if goesOut(moves[k].At.Kind) {
 				needed, both = 2, both+1
 			} else {
 				alone++
@@ -71,8 +71,8 @@ func TestP29MovesOfMany(t *testing.T) {
 			}
 		}
 		for _, q := range x.all {
-			if q.at != nil || len(q.ends) > 0 {
-				t.Fatalf("%s is not over:\n%s", q.name(), text(p))
+			if q.At != nil || len(q.Ends) > 0 {
+				t.Fatalf("%s is not over:\n%s", q.Name(), text(p))
 			}
 		}
 	}
@@ -88,7 +88,7 @@ func movesOf(p api.Program, picks []int) string {
 	for k := 0; ; k++ {
 		var names []string
 		for _, q := range r.movers {
-			names = append(names, q.name())
+			names = append(names, q.Name())
 		}
 		out = append(out, strings.Join(names, ","))
 		if len(r.movers) == 0 {
