@@ -116,6 +116,24 @@ func (l *Life[E]) call(d *api.Def) {
 	l.known, l.Ends, l.At = known, ends, &d.Body
 }
 
+// GoesOut says whether something goes out where a process of that kind stands.
+func GoesOut(kind int) bool { return kind == api.PSend || kind == api.PGive || kind == api.PPick }
+
+// ComesIn says whether something comes in there.
+func ComesIn(kind int) bool { return kind == api.PRecv || kind == api.PTake || kind == api.PCase }
+
+// Picked is the number of what is done k-th, of so many that can be done then.
+func Picked(picks []int, k, many int) int {
+	if k >= len(picks) {
+		return 0
+	}
+	pick := picks[k]
+	if pick < 0 {
+		pick = -1 - pick
+	}
+	return pick % many
+}
+
 // Written is a value that a process has, as values.Write writes it.
 func Written(v api.Value) string {
 	text, _ := values.Write(v)

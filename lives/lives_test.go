@@ -1,6 +1,7 @@
 package lives_test
 
 import (
+	"math"
 	"slices"
 	"testing"
 
@@ -89,5 +90,24 @@ func TestOrder(t *testing.T) {
 		if said[i].Who != name {
 			t.Errorf("%d: %s, want %s", i, said[i].Who, name)
 		}
+	}
+}
+
+// TestP29Picks: numbers below 0 count as -1 less them; all go modulo how many moves there are.
+func TestP29Picks(t *testing.T) {
+	picks := []int{0, 1, 2, 3, 7, -1, -2, -3, -4, math.MaxInt, math.MinInt, -math.MaxInt}
+	for moves, want := range map[int][]int{
+		1: make([]int, 15),
+		2: {0, 1, 0, 1, 1, 0, 1, 0, 1, 1, 1, 0, 0, 0, 0},
+		3: {0, 1, 2, 0, 1, 0, 1, 2, 0, math.MaxInt % 3, math.MaxInt % 3, (math.MaxInt - 1) % 3, 0, 0, 0},
+	} {
+		for k, n := range want {
+			if got := lives.Picked(picks, k, moves); got != n {
+				t.Errorf("pick %d of %d moves: %d, want %d", k, moves, got, n)
+			}
+		}
+	}
+	if got := lives.Picked(nil, 0, 5); got != 0 {
+		t.Errorf("no picks: %d", got)
 	}
 }

@@ -1,7 +1,5 @@
 package steps
 
-import "duet/api"
-
 // Sides of a channel.
 const (
 	childs = iota
@@ -32,7 +30,3 @@ func (x end) log(out, in, what string) {
 	}
 	x.of.lines = append(x.of.lines, sign+what)
 }
-
-func goesOut(kind int) bool { return kind == api.PSend || kind == api.PGive || kind == api.PPick }
-
-func comesIn(kind int) bool { return kind == api.PRecv || kind == api.PTake || kind == api.PCase }

@@ -28,7 +28,7 @@ func (r *run) move(k int) {
 	p := r.movers[k]
 	r.movers = slices.Delete(r.movers, k, k+1)
 	switch {
-	case goesOut(p.At.Kind):
+	case lives.GoesOut(p.At.Kind):
 		r.moveBoth(p, p.partner())
 	case p.At.Kind == api.Spawn:
 		r.moveSpawn(p)
@@ -60,7 +60,7 @@ func (r *run) settle(p *process) {
 	if p.At == nil {
 		return
 	}
-	if comesIn(p.At.Kind) {
+	if lives.ComesIn(p.At.Kind) {
 		p = p.partner()
 	}
 	place, known := slices.BinarySearchFunc(r.movers, p.number, func(m *process, number int) int { return cmp.Compare(m.number, number) })

@@ -1,13 +1,13 @@
 package steps
 
 import (
-	"math"
 	"math/rand"
 	"slices"
 	"strings"
 	"testing"
 
 	"duet/api"
+	"duet/lives"
 )
 
 // looked is P29's moves once more: all processes are looked at, and all that they have.
@@ -60,7 +60,7 @@ func TestP29MovesOfMany(t *testing.T) {
 			most = max(most, len(moves))
 			before, k := x.steps, r.Intn(len(moves))
 			needed := 1
-			if goesOut(moves[k].At.Kind) {
+			if lives.GoesOut(moves[k].At.Kind) {
 				needed, both = 2, both+1
 			} else {
 				alone++
@@ -94,7 +94,7 @@ func movesOf(p api.Program, picks []int) string {
 		if len(r.movers) == 0 {
 			return strings.Join(out, " ")
 		}
-		r.move(picked(picks, k, len(r.movers)))
+		r.move(lives.Picked(picks, k, len(r.movers)))
 	}
 }
 
@@ -122,24 +122,5 @@ func TestP29Moves(t *testing.T) {
 		if got := movesOf(parsed(t, x.s), x.picks); got != x.moves {
 			t.Errorf("%s, %v\n\t%q, want\n\t%q", x.s, x.picks, got, x.moves)
 		}
-	}
-}
-
-// TestP29Picks: numbers below 0 count as -1 less them; all go modulo how many moves there are.
-func TestP29Picks(t *testing.T) {
-	picks := []int{0, 1, 2, 3, 7, -1, -2, -3, -4, math.MaxInt, math.MinInt, -math.MaxInt}
-	for moves, want := range map[int][]int{
-		1: make([]int, 15),
-		2: {0, 1, 0, 1, 1, 0, 1, 0, 1, 1, 1, 0, 0, 0, 0},
-		3: {0, 1, 2, 0, 1, 0, 1, 2, 0, math.MaxInt % 3, math.MaxInt % 3, (math.MaxInt - 1) % 3, 0, 0, 0},
-	} {
-		for k, n := range want {
-			if got := picked(picks, k, moves); got != n {
-				t.Errorf("pick %d of %d moves: %d, want %d", k, moves, got, n)
-			}
-		}
-	}
-	if got := picked(nil, 0, 5); got != 0 {
-		t.Errorf("no picks: %d", got)
 	}
 }

@@ -21,9 +21,9 @@ func (p *process) partner() *process { return p.Here().other().holder() }
 // canMove says whether a move of its own can be made: what comes in is the move of who lets it out.
 func (p *process) canMove() bool {
 	switch {
-	case comesIn(p.At.Kind):
+	case lives.ComesIn(p.At.Kind):
 		return false
-	case goesOut(p.At.Kind):
+	case lives.GoesOut(p.At.Kind):
 		// By the types of both ends, who stands at the other one waits for just that.
 		return p.partner().Here() == p.Here().other()
 	}
