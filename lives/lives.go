@@ -3,62 +3,25 @@ package lives
 
 import (
 	"slices"
-	"strconv"
 	"strings"
 
 	"duet/api"
-	"duet/exprs"
 	"duet/values"
 )
 
-// Life of a process of a program that check.Check has passed: so what it looks for is there, and what it reckons has a value. What an end of a channel is, who runs the program says.
+// Life of a process that goes from each process of the program to one of its Kids.
 type Life[E any] struct {
-	At       *api.Proc // what it does next; nil, if it is over
-	Ends     map[string]E
-	known    []api.Bind // a later one of a name counts
-	parent   *Life[E]
-	rank     int // among the children of its parent
-	children int
+	*Self[E]
+	At *api.Proc // what it does next; nil, if it is over
 }
 
 // First is the process that a program runs from.
 func First[E any](defs []api.Def) *Life[E] {
-	return &Life[E]{At: &defs[0].Body, Ends: map[string]E{}}
+	return &Life[E]{Self: Begun[E](), At: &defs[0].Body}
 }
-
-// Name is put together only when it is told: of a program that goes on for ever names may grow and grow.
-func (l *Life[E]) Name() string {
-	var ranks []string
-	for ; l != nil; l = l.parent {
-		ranks = append(ranks, strconv.Itoa(l.rank))
-	}
-	slices.Reverse(ranks)
-	return strings.Join(ranks, ".")
-}
-
-// Channel is the name of the channel over which a child was spawned.
-func (l *Life[E]) Channel() string { return l.parent.Name() + ":" + strconv.Itoa(l.rank) }
 
 // Here is the end at which it stands.
 func (l *Life[E]) Here() E { return l.Ends[l.At.Chan] }
-
-// Lose an end, which is answered.
-func (l *Life[E]) Lose(name string) E {
-	x := l.Ends[name]
-	delete(l.Ends, name)
-	return x
-}
-
-// Know a value by a name from here on.
-func (l *Life[E]) Know(name string, v api.Value) {
-	l.known = append(l.known, api.Bind{Name: name, Value: v})
-}
-
-// Value of an expression here.
-func (l *Life[E]) Value(x api.Expr) api.Value {
-	v, _ := exprs.Eval(x, l.known)
-	return v
-}
 
 // Next goes on with what comes next, of the kinds that have it.
 func (l *Life[E]) Next() { l.At = &l.At.Kids[len(l.At.Kids)-1] }
@@ -70,13 +33,7 @@ func (l *Life[E]) Branch(label string) {
 
 // Spawn is the child, with its end of the new channel; its parent goes on with the other one.
 func (l *Life[E]) Spawn(its, other E) *Life[E] {
-	at := l.At
-	child := &Life[E]{At: &at.Kids[0], Ends: map[string]E{}, known: slices.Clone(l.known), parent: l, rank: l.children}
-	for _, name := range at.Names {
-		child.Ends[name] = l.Lose(name)
-	}
-	child.Ends[at.Chan], l.Ends[at.Chan] = its, other
-	l.children++
+	child := &Life[E]{Self: l.Bear(l.At, its, other), At: &l.At.Kids[0]}
 	l.Next()
 	return child
 }
@@ -87,33 +44,13 @@ func (l *Life[E]) Alone(defs []api.Def, say func(line string)) {
 	switch at.Kind {
 	case api.Stop:
 		l.At = nil
-	case api.PEnd:
-		l.Lose(at.Chan)
-		l.Next()
-	case api.Let:
-		l.Know(at.Name, l.Value(at.Expr))
-		l.Next()
-	case api.Print:
-		say(Written(l.Value(at.Expr)))
-		l.Next()
-	case api.If:
-		l.At = &at.Kids[1-l.Value(at.Expr).N]
 	case api.Call:
-		k := slices.IndexFunc(defs, func(d api.Def) bool { return d.Name == at.Name })
-		l.call(&defs[k])
+		d := &defs[slices.IndexFunc(defs, func(d api.Def) bool { return d.Name == at.Name })]
+		l.Become(at, d.Values, d.Chans)
+		l.At = &d.Body
+	default:
+		l.At = &at.Kids[l.Do(at, say)]
 	}
-}
-
-func (l *Life[E]) call(d *api.Def) {
-	var known []api.Bind
-	for i, name := range d.Values {
-		known = append(known, api.Bind{Name: name, Value: l.Value(l.At.Exprs[i])})
-	}
-	ends := map[string]E{}
-	for i, name := range d.Chans {
-		ends[name] = l.Ends[l.At.Names[i]]
-	}
-	l.known, l.Ends, l.At = known, ends, &d.Body
 }
 
 // GoesOut says whether something goes out where a process of that kind stands.
