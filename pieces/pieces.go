@@ -23,18 +23,25 @@ type Reader struct {
 }
 
 // Read is where a reading begins, at that byte or at the nearest one that the text has: a fault that is thrown at any of its pieces comes down here.
-func Read(text, blanks string, at int, reading func(*Reader)) (f api.Fault) {
+func Read(text, blanks string, at int, reading func(*Reader)) api.Fault {
+	if len(text) > api.MaxSource {
+		return api.Fault{Code: api.ErrLarge, At: 0}
+	}
+	return Caught(func() {
+		r := Reader{text: text, blanks: blanks, at: min(max(at, 0), len(text))}
+		r.Pass(0)
+		reading(&r)
+	})
+}
+
+// Caught is the fault that a reading throws, for readings that go by bytes too; that of OK, if it comes to its end.
+func Caught(reading func()) (f api.Fault) {
 	defer func() {
 		if thrown := recover(); thrown != nil {
 			f = thrown.(api.Fault)
 		}
 	}()
-	if len(text) > api.MaxSource {
-		return api.Fault{Code: api.ErrLarge, At: 0}
-	}
-	r := Reader{text: text, blanks: blanks, at: min(max(at, 0), len(text))}
-	r.Pass(0)
-	reading(&r)
+	reading()
 	return api.Fault{}
 }
 

@@ -78,3 +78,17 @@ func TestReadCatchesWhatIsThrown(t *testing.T) {
 		}
 	}
 }
+
+func TestCaught(t *testing.T) {
+	want, came := api.Fault{Code: api.ErrName, At: 7}, false
+	f := pieces.Caught(func() {
+		func() { panic(want) }()
+		came = true
+	})
+	if f != want || came {
+		t.Errorf("%v, %v", f, came)
+	}
+	if f := pieces.Caught(func() { came = true }); f != (api.Fault{}) || !came {
+		t.Errorf("%v, %v", f, came)
+	}
+}
