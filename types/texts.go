@@ -54,18 +54,9 @@ func write(out *strings.Builder, t api.Type) {
 		out.WriteString("}.")
 		write(out, t.Kids[1])
 	case api.Pick, api.Offer:
-		writeChoice(out, t)
+		out.WriteString(sign(t.Kind))
+		words.WriteChoice(out, t.Labels, t.Kids, write)
 	}
-}
-
-func writeChoice(out *strings.Builder, t api.Type) {
-	between := sign(t.Kind) + "{"
-	for i, label := range t.Labels {
-		out.WriteString(between + label + ":")
-		write(out, t.Kids[i])
-		between = ","
-	}
-	out.WriteString("}")
 }
 
 // sign is that with which a kind begins.
@@ -119,17 +110,8 @@ func readMessage(r *pieces.Reader, ofValue, ofEnd int) api.Type {
 }
 
 func readChoice(r *pieces.Reader, kind int) api.Type {
-	t := api.Type{Kind: kind}
-	r.Need("{")
-	for {
-		t.Labels = append(t.Labels, words.ReadLabel(r, t.Labels, words.AreLabels))
-		r.Need(":")
-		t.Kids = append(t.Kids, read(r))
-		if r.Skip("}") {
-			return t
-		}
-		r.Need(",")
-	}
+	labels, kids := words.ReadChoice(r, read)
+	return api.Type{Kind: kind, Labels: labels, Kids: kids}
 }
 
 func readWord(r *pieces.Reader) api.Type {

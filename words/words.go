@@ -3,6 +3,7 @@ package words
 
 import (
 	"slices"
+	"strings"
 
 	"duet/api"
 	"duet/exprs"
@@ -51,4 +52,29 @@ func Rise(labels []string) bool {
 // ReadLabel throws a fault where no label stands with which those ahead are still what they may be.
 func ReadLabel(r *pieces.Reader, ahead []string, may func([]string) bool) string {
 	return r.Take(func(label string) bool { return may(append(slices.Clone(ahead), label)) })
+}
+
+// WriteChoice writes labels, each with what comes next behind it.
+func WriteChoice[T any](out *strings.Builder, labels []string, kids []T, write func(*strings.Builder, T)) {
+	between := "{"
+	for i, label := range labels {
+		out.WriteString(between + label + ":")
+		write(out, kids[i])
+		between = ","
+	}
+	out.WriteString("}")
+}
+
+// ReadChoice reads what WriteChoice writes, of labels that are those of one choice.
+func ReadChoice[T any](r *pieces.Reader, read func(*pieces.Reader) T) (labels []string, kids []T) {
+	r.Need("{")
+	for {
+		labels = append(labels, ReadLabel(r, labels, AreLabels))
+		r.Need(":")
+		kids = append(kids, read(r))
+		if r.Skip("}") {
+			return labels, kids
+		}
+		r.Need(",")
+	}
 }

@@ -70,3 +70,36 @@ func TestReadLabel(t *testing.T) {
 		}
 	}
 }
+
+func TestChoice(t *testing.T) {
+	sort := func(out *strings.Builder, sort int) { out.WriteString(words.Sort(sort)) }
+	for _, x := range []struct {
+		s      string
+		labels []string
+		kids   []int
+	}{
+		{"{a:int}", []string{"a"}, []int{api.Int}}, {"{a:text,b:bool,end:int}", []string{"a", "b", "end"}, []int{api.Text, api.Bool, api.Int}},
+		{"{a:int,b:int,c:int,d:int,e:int,f:bool}", strings.Fields("a b c d e f"), []int{1, 1, 1, 1, 1, 2}},
+	} {
+		var out strings.Builder
+		words.WriteChoice(&out, x.labels, x.kids, sort)
+		if out.String() != x.s {
+			t.Errorf("WriteChoice of %q: %s", x.labels, out.String())
+		}
+		var labels []string
+		var kids []int
+		f := pieces.Read(" "+strings.ReplaceAll(x.s, ":", " : ")+" ", " ", 0, func(r *pieces.Reader) {
+			labels, kids = words.ReadChoice(r, words.ReadSort)
+			r.Finish()
+		})
+		if !slices.Equal(labels, x.labels) || !slices.Equal(kids, x.kids) || f.Code != api.OK {
+			t.Errorf("ReadChoice of %q: %q, %d, %v", x.s, labels, kids, f)
+		}
+	}
+	for s, at := range map[string]int{"": 0, "a:int}": 0, "{": 1, "{}": 1, "{a}": 2, "{a:}": 3, "{a:int": 6, "{a:int,": 7, "{a:int,}": 7, "{b:int,a:int}": 7, "{a:int a:int}": 7, "{a:int,b:int,c:int,d:int,e:int,f:int,g:int}": 37} {
+		f := pieces.Read(s, " ", 0, func(r *pieces.Reader) { words.ReadChoice(r, words.ReadSort) })
+		if want := (api.Fault{Code: api.ErrSyntax, At: at}); f != want {
+			t.Errorf("ReadChoice of %q: %v, want %v", s, f, want)
+		}
+	}
+}
