@@ -46,32 +46,17 @@ func write(out *strings.Builder, t api.Type) {
 		out.WriteString("rec " + t.Name + ".")
 		write(out, t.Kids[0])
 	case api.Send, api.Recv:
-		out.WriteString(sign(t.Kind) + words.Sort(t.Sort) + ".")
+		out.WriteString(words.Sign(t.Kind) + words.Sort(t.Sort) + ".")
 		write(out, t.Kids[0])
 	case api.Give, api.Take:
-		out.WriteString(sign(t.Kind) + "{")
+		out.WriteString(words.Sign(t.Kind) + "{")
 		write(out, t.Kids[0])
 		out.WriteString("}.")
 		write(out, t.Kids[1])
 	case api.Pick, api.Offer:
-		out.WriteString(sign(t.Kind))
+		out.WriteString(words.Sign(t.Kind))
 		words.WriteChoice(out, t.Labels, t.Kids, write)
 	}
-}
-
-// sign is that with which a kind begins.
-func sign(kind int) string {
-	switch kind {
-	case api.Send, api.Give:
-		return "!"
-	case api.Recv, api.Take:
-		return "?"
-	case api.Pick:
-		return "+"
-	case api.Offer:
-		return "&"
-	}
-	return ""
 }
 
 // checked throws what is to be told when all has been read.

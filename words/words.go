@@ -1,4 +1,4 @@
-// Package words: sorts and labels as words of texts. It has no promises of its own: the packages whose texts have such words share it.
+// Package words: sorts and labels as words of texts, and the signs ahead of them. It has no promises of its own: the packages whose texts have such words share it.
 package words
 
 import (
@@ -19,6 +19,21 @@ func Sort(sort int) string {
 		return "bool"
 	case api.Text:
 		return "text"
+	}
+	return ""
+}
+
+// Sign is that with which what goes out, or comes in, is written; the empty text of other kinds.
+func Sign(kind int) string {
+	switch kind {
+	case api.Send, api.Give:
+		return "!"
+	case api.Recv, api.Take:
+		return "?"
+	case api.Pick:
+		return "+"
+	case api.Offer:
+		return "&"
 	}
 	return ""
 }

@@ -19,6 +19,14 @@ func TestSort(t *testing.T) {
 	}
 }
 
+func TestSign(t *testing.T) {
+	for kind, want := range map[int]string{api.Send: "!", api.Give: "!", api.Recv: "?", api.Take: "?", api.Pick: "+", api.Offer: "&", api.End: "", api.Rec: "", api.Var: "", 0: "", 10: "", math.MinInt: "", math.MaxInt: ""} {
+		if got := words.Sign(kind); got != want {
+			t.Errorf("Sign(%d) = %q", kind, got)
+		}
+	}
+}
+
 func TestReadSort(t *testing.T) {
 	for s, want := range map[string]int{"int": api.Int, "bool .": api.Bool, " text)": api.Text, "int5": api.Int, "ints": 0, "in": 0, "": 0, " 5": 0, "Int": 0, "boolint": 0} {
 		sort, at := 0, 0
